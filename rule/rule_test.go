@@ -317,7 +317,7 @@ func (f fault) apartFrom(g fault) bool {
 	return true
 }
 
-// Of every two faults that one rule can have the one that R1 names first is told.
+// Of every two of these faults that set different fields the one that R1 names first is told.
 func TestFirstFaultIsTold(t *testing.T) {
 	for _, f := range faults {
 		for _, g := range faults {
