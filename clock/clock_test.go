@@ -128,6 +128,19 @@ func TestSplit(t *testing.T) {
 	}
 }
 
+func TestIsTime(t *testing.T) {
+	for _, is := range []int{1, 2, 1439, 1440, 66729178, lastTime - 1, lastTime} {
+		if !clock.IsTime(is) {
+			t.Errorf("IsTime(%d): got false", is)
+		}
+	}
+	for _, no := range noTimes {
+		if clock.IsTime(no) {
+			t.Errorf("IsTime(%d): got true", no)
+		}
+	}
+}
+
 func TestSplitAndPrintWrong(t *testing.T) {
 	for _, no := range noTimes {
 		n, minute, err := clock.Split(no)

@@ -96,6 +96,10 @@ func holdBetween(t *testing.T, r api.Rule, start, from, to int, days []int) {
 		end++
 	}
 	want := days[first:max(first, end)]
+	// To list very many of them would take long, and tell no more.
+	if len(want) <= 3*maxCount {
+		wantEach(t, r, start, from, to, want)
+	}
 	if len(want) > maxCount {
 		wantFull(t, r, start, from, to)
 	} else {

@@ -94,6 +94,13 @@ func wantBetween(t *testing.T, r api.Rule, start, from, to int, want []int) {
 	}
 }
 
+func wantEach(t *testing.T, r api.Rule, start, from, to int, want []int) {
+	t.Helper()
+	if got, err := seq.All(r, start, from, to); !slices.Equal(got, want) || err != nil {
+		t.Errorf("All(%+v, %d, %d, %d): got %v, %v, want %v", r, start, from, to, got, err, want)
+	}
+}
+
 func wantFull(t *testing.T, r api.Rule, start, from, to int) {
 	t.Helper()
 	if got, err := seq.Between(r, start, from, to); len(got) != 0 || plain.Told(err) != api.ErrFull {
@@ -520,5 +527,22 @@ func TestNumbersThatAreNoDays(t *testing.T) {
 			wantBetween(t, r, start, math.MaxInt, math.MinInt, nil)
 		}
 		wantBetween(t, r, lastDay, math.MinInt, math.MaxInt, []int{lastDay})
+	}
+}
+
+// All is bound by the stretch alone.
+func TestAll(t *testing.T) {
+	daily := api.Rule{Freq: api.Daily, Every: 1}
+	for _, many := range []int{0, 1, maxCount, maxCount + 1, 5 * maxCount} {
+		var want []int
+		for n := range many {
+			want = append(want, 46341+n)
+		}
+		wantEach(t, daily, 46341, 0, 46340+many, want)
+		wantEach(t, daily, 1, 46341, 46340+many, want)
+	}
+	days, err := seq.All(daily, 1, math.MinInt, math.MaxInt)
+	if len(days) != lastDay || days[lastDay-1] != lastDay || err != nil {
+		t.Errorf("All: got %d days, %v, want %d", len(days), err, lastDay)
 	}
 }

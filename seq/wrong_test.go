@@ -31,6 +31,8 @@ func wantError(t *testing.T, r api.Rule, start int, want api.Errno) {
 		for _, to := range []int{46341, lastDay, math.MinInt, math.MaxInt} {
 			list, err := seq.Between(r, start, n, to)
 			say("Between", fmt.Sprint(list, 0, false), err)
+			list, err = seq.All(r, start, n, to)
+			say("All", fmt.Sprint(list, 0, false), err)
 		}
 	}
 	count, err := seq.Count(r, start)
@@ -179,10 +181,11 @@ func TestEmptyListsAreNil(t *testing.T) {
 // What comes out is the caller's: writing into it changes neither the rule nor what comes out again.
 func TestDaysAreFresh(t *testing.T) {
 	r := ruleOf(t, "monthly months 1,6,11 days -1,1,16 on mo,tu,we pick -1,1")
-	lists := func() [2][]int {
+	lists := func() [3][]int {
 		first, _ := seq.First(r, 46341, 9)
 		between, _ := seq.Between(r, 46341, 46341, 46341+1000)
-		return [2][]int{first, between}
+		all, _ := seq.All(r, 46341, 46341, 46341+1000)
+		return [3][]int{first, between, all}
 	}
 	text := fmt.Sprint(r, lists())
 	for _, list := range lists() {
