@@ -141,6 +141,12 @@ func TestIsTime(t *testing.T) {
 	}
 }
 
+func TestLast(t *testing.T) {
+	if got := clock.Last(); got != lastTime {
+		t.Errorf("Last: got %d, want %d", got, lastTime)
+	}
+}
+
 func TestSplitAndPrintWrong(t *testing.T) {
 	for _, no := range noTimes {
 		n, minute, err := clock.Split(no)

@@ -51,12 +51,21 @@ func Moved(e api.Event, which int) (int, bool, error) {
 	if len(list) == 0 {
 		return 0, false, api.ErrNone
 	}
-	isIts := func(c api.Change) bool { return c.At == which }
-	if i := slices.IndexFunc(e.Changes, isIts); i >= 0 {
-		to := e.Changes[i].To
-		return to, to == 0, nil
+	c, changed := changeOf(e, which)
+	if !changed {
+		return which, false, nil
 	}
-	return which, false, nil
+	return c.To, c.To == 0, nil
+}
+
+// changeOf a time, if it has one.
+func changeOf(e api.Event, which int) (api.Change, bool) {
+	isIts := func(c api.Change) bool { return c.At == which }
+	i := slices.IndexFunc(e.Changes, isIts)
+	if i < 0 {
+		return api.Change{}, false
+	}
+	return e.Changes[i], true
 }
 
 // between lists the TIMES that are from one to another one, rising, of an event of which Check tells nothing.
