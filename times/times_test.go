@@ -162,6 +162,7 @@ func holdBetween(t *testing.T, z api.Zone, e api.Event, from, to int, all []api.
 			want = append(want, each)
 		}
 	}
+	wantAll(t, z, e, from, to, want)
 	if len(want) > mostFull {
 		wantNoBetween(t, z, e, from, to, api.ErrFull)
 	} else {
