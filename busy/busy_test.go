@@ -84,12 +84,17 @@ func wantSlot(t *testing.T, list []api.Busy, from, to, length, want int) {
 	t.Helper()
 	got, err := busy.Slot(list, from, to, length)
 	wantNumber(t, "Slot", got, err, want)
+	wantSlotAmong(t, list, from, to, length, want)
 }
 
 func wantNoSlot(t *testing.T, list []api.Busy, from, to, length int, want api.Errno) {
 	t.Helper()
 	got, err := busy.Slot(list, from, to, length)
 	wantNoNumber(t, "Slot", got, err, want)
+	// Of lists that are not too long both tell the same.
+	if len(list) <= mostBusy {
+		wantNoSlotAmong(t, list, from, to, length, want)
+	}
 }
 
 func wantTotal(t *testing.T, list []api.Busy, want int) {
